@@ -6,6 +6,7 @@ import (
 
 	"bastide/api"
 	"bastide/bin"
+	"bastide/lists"
 	"bastide/wish"
 )
 
@@ -20,10 +21,8 @@ const (
 	manyLeaves                               // how many there are
 )
 
-const (
-	longestNumber = 8   // bytes of a number
-	longestLeaf   = 128 // bytes that a leaf's text may have
-)
+// longestLeaf is how many bytes a leaf's text may have.
+const longestLeaf = 128
 
 // writers make the leaves, each at its place.
 func (v *Vault) writers() [manyLeaves]func() []byte {
@@ -35,7 +34,7 @@ func (v *Vault) writers() [manyLeaves]func() []byte {
 		l[clientLeaf+i] = func() []byte { return v.clients[i].written() }
 	}
 	l[epochLeaf] = func() []byte {
-		return bin.Join(numbers(v.group, v.epoch, len(v.seal)), numbers(v.seal...))
+		return lists.Numbers(append([]int{v.group, v.epoch, len(v.seal)}, v.seal...)...)
 	}
 	return l
 }
@@ -72,7 +71,7 @@ func (v *Vault) read(leaves [][]byte) bool {
 
 // readEpoch takes the last leaf.
 func (v *Vault) readEpoch(leaf []byte) bool {
-	l, ok := taken(leaf)
+	l, ok := lists.TakeNumbers(leaf)
 	if !ok || len(l) < 3 || l[2] != len(l)-3 {
 		return false
 	}
@@ -84,8 +83,7 @@ func (v *Vault) readEpoch(leaf []byte) bool {
 }
 
 func (c *client) written() []byte {
-	data, _ := bin.Str(c.data) // a block's bytes at most
-	return bin.Join(numbers(c.stamp), data)
+	return bin.Join(lists.Numbers(c.stamp), lists.Texts(c.data))
 }
 
 func (c *client) read(leaf []byte) bool {
@@ -99,48 +97,6 @@ func (c *client) read(leaf []byte) bool {
 	}
 	c.stamp, c.data = stamp, data
 	return len(data) == 0 || len(data) == api.BlockSize && stamp > 0
-}
-
-// unpacked takes the leaves' texts off bytes.
-func unpacked(b []byte) ([][]byte, api.Errno) {
-	var l [][]byte
-	for range manyLeaves {
-		// bin is shown no more than a text may be, as it copies what is left.
-		near := b[:min(len(b), longestNumber+longestLeaf)]
-		leaf, left, e := bin.TakeStr(near, longestLeaf)
-		if e != api.OK {
-			return nil, e
-		}
-		l = append(l, leaf)
-		b = b[len(near)-len(left):]
-	}
-	if len(b) > 0 {
-		return nil, api.ErrSyntax
-	}
-	return l, api.OK
-}
-
-// numbers is the bytes of numbers; bin refuses none, as all stand in a vault, or count what it has.
-func numbers(l ...int) []byte {
-	var out []byte
-	for _, n := range l {
-		b, _ := bin.Num(n)
-		out = append(out, b...)
-	}
-	return out
-}
-
-// taken is the numbers of bytes, if these are numbers alone.
-func taken(b []byte) ([]int, bool) {
-	var l []int
-	for len(b) > 0 {
-		n, rest, e := bin.TakeNum(b)
-		if e != api.OK {
-			return nil, false
-		}
-		l, b = append(l, n), rest
-	}
-	return l, true
 }
 
 func isChunk(group int) bool {

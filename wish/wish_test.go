@@ -85,8 +85,8 @@ func odd() []int {
 	return []int{math.MinInt, -1 << 53, -1 << 32, -34, -1, 0, 1, 2, 3, 4, 5, 6, 7, 8, 9, 16, 27, 28, 29, 30, 31, 32, 33, 34, 35, 255, 256, 257, 1<<20 - 1, 1 << 20, 1<<20 + 1, 1 << 32, 1<<32 + 1, 1<<32 + 31, api.MaxNumber, api.MaxNumber + 1, math.MaxInt}
 }
 
-// lists are lists of nodes, some of which may be a crew's.
-func lists() [][]int {
+// listsOfNodes are some that may be a crew's, and some that may not.
+func listsOfNodes() [][]int {
 	return [][]int{
 		nil, {}, {1}, {28}, {0}, {29}, {-1}, {1<<32 + 1}, {1, 2}, {1, 2, 3}, {1, 2, 3, 4}, {25, 26, 27, 28}, {25, 26, 27, 29}, {0, 1, 2, 3}, {-1, 0, 1, 2},
 		{1, 2, 4, 3}, {1, 1, 2, 3}, {1, 2, 2, 3}, {1, 2, 3, 3}, {4, 3, 2, 1}, {2, 1, 3, 4}, {1, 2, 3, 4, 5}, {1, 2, 3, 4, 5, 6},
@@ -117,7 +117,7 @@ func varied() []api.Wish {
 				}
 			}
 		}
-		for _, l := range lists() {
+		for _, l := range listsOfNodes() {
 			v := w
 			v.Next = l
 			out = append(out, v)
